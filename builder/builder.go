@@ -37,15 +37,6 @@ func Sum(text string) string {
 	return string(sum[:])
 }
 
-// Manifest tells what is to be built.
-type Manifest struct{}
-
-// Parse makes a manifest of a text (P5 to P7).
-func Parse(text string) (*Manifest, error) { return nil, nil }
-
-// Edges tells all edges (P7).
-func (m *Manifest) Edges() []Edge { return nil }
-
 // Order tells the places of the edges that targets need (P8).
 func (m *Manifest) Order(targets ...string) ([]int, error) { return nil, nil }
 

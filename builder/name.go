@@ -16,10 +16,14 @@ func isName(text string) bool {
 }
 
 func isNameByte(c byte) bool {
+	return isWordByte(c) || c == '.' || c == '/'
+}
+
+func isWordByte(c byte) bool {
 	switch {
 	case 'a' <= c && c <= 'z', 'A' <= c && c <= 'Z', '0' <= c && c <= '9':
 		return true
-	case c == '.', c == '_', c == '/', c == '-':
+	case c == '_', c == '-':
 		return true
 	}
 	return false
