@@ -37,11 +37,5 @@ func Sum(text string) string {
 	return string(sum[:])
 }
 
-// Order tells the places of the edges that targets need (P8).
-func (m *Manifest) Order(targets ...string) ([]int, error) { return nil, nil }
-
-// Run tells what a command makes (P9).
-func Run(command string, read func(name string) (string, bool)) (string, bool) { return "", false }
-
 // Build builds what targets need (P11, P12).
 func Build(f *Files, text string, targets ...string) (Report, error) { return Report{}, nil }
