@@ -36,6 +36,3 @@ func Sum(text string) string {
 	sum := sums.Of(text)
 	return string(sum[:])
 }
-
-// Build builds what targets need (P11, P12).
-func Build(f *Files, text string, targets ...string) (Report, error) { return Report{}, nil }

@@ -88,7 +88,7 @@ func markOf(text string) string {
 func (r *reader) readPath(text string) string {
 	path := r.expand(text, r.vars)
 	// The log's names stay free for the log.
-	r.need(isName(path) && path != ".log" && path != ".log.new", ErrName)
+	r.need(isName(path) && path != logName && path != newLogName, ErrName)
 	return path
 }
 

@@ -1,4 +1,4 @@
-// Package sums works out SHA-256, as FIPS 180-4 tells it.
+// Package sums works out SHA-256, as FIPS 180-4 tells it, and CRC-32.
 package sums
 
 import "math/bits"
