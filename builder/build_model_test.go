@@ -332,3 +332,26 @@ func TestBuildAgainstAModel(t *testing.T) {
 		}
 	}
 }
+
+// Of any log and any manifest the model tells the same.
+func FuzzBuild(f *testing.F) {
+	good := exampleRecord()
+	for _, log := range []string{"", head, head + good, head + good + "left", head + strings.Repeat(good, 11), head + framed(""), head + framed("\x01o"), head + good[:50]} {
+		f.Add(log, example)
+		f.Add(log, behindRule("build o p: c a\nbuild q: c o | b || none\nbuild r: c q"))
+	}
+	f.Fuzz(func(t *testing.T, log, text string) {
+		manifest, err := builder.Parse(text)
+		if err != nil || len(log) > 60000 {
+			return
+		}
+		got := stocked(t, "a", "one", "b", "two", "o", "onetwo", ".log", log)
+		want := stocked(t, "a", "one", "b", "two", "o", "onetwo", ".log", log)
+		for range 2 {
+			if told, wanted := built(t, got, text), modelBuilt(want, manifest, nil); told != wanted {
+				t.Fatalf("Build(%q) of the log %q: %s, want %s", text, log, told, wanted)
+			}
+			sameFiles(t, got, want, "Build")
+		}
+	})
+}
